@@ -8,6 +8,7 @@ import (
 	"testing"
 
 	"mainline/api"
+	"mainline/samples"
 )
 
 const greatest = uint64(math.MaxUint64)
@@ -19,23 +20,6 @@ func boundaryNumbers() []uint64 {
 		l = append(l, 1<<bits-1, 1<<bits, 1<<bits+1)
 	}
 	return l
-}
-
-// stringsOver returns all strings of at most most bytes of the alphabet.
-func stringsOver(alphabet string, most int) []string {
-	all := []string{""}
-	longest := all
-	for range most {
-		var longer []string
-		for _, s := range longest {
-			for i := range len(alphabet) {
-				longer = append(longer, s+alphabet[i:i+1])
-			}
-		}
-		all = append(all, longer...)
-		longest = longer
-	}
-	return all
 }
 
 // listsOver returns all lists of at most most of the texts.
@@ -239,7 +223,7 @@ func asRunes(s string) string {
 }
 
 func TestP1_3ReadNumberOfAllShortStrings(t *testing.T) {
-	for _, s := range stringsOver("\x00\x01\x02\x7f\x80\xff", 5) {
+	for _, s := range samples.Strings("\x00\x01\x02\x7f\x80\xff", 5) {
 		checkReadNumber(t, s)
 		for _, fill := range []string{"\x80", "\x81", "\xff"} {
 			for length := 6; length <= 9; length++ {
@@ -388,7 +372,7 @@ func firstError(s string) api.Errno {
 }
 
 func TestP1_6UnpackOfAllShortStrings(t *testing.T) {
-	for _, s := range stringsOver("\x00\x01\x02\x03\x80\xff", 6) {
+	for _, s := range samples.Strings("\x00\x01\x02\x03\x80\xff", 6) {
 		l, e := Unpack(s)
 		if want := firstError(s); e != want {
 			t.Errorf("Unpack(% x): %d, want %d", s, e, want)
@@ -466,7 +450,7 @@ func TestP1_7SumTellsFourBytesApart(t *testing.T) {
 }
 
 func TestP1CallsEndForAllArguments(t *testing.T) {
-	for _, s := range stringsOver("\x00\x01\x7f\x80\xff", 6) {
+	for _, s := range samples.Strings("\x00\x01\x7f\x80\xff", 6) {
 		for _, fill := range []string{"", strings.Repeat("\xff", 9), Number(greatest), "\x01" + Number(greatest), "\x02" + Number(1<<63)} {
 			Sum(fill + s)
 			if n, size, e := ReadNumber(fill + s); e != api.OK && (n != 0 || size != 0) {

@@ -9,6 +9,7 @@ import (
 	"testing"
 
 	"mainline/api"
+	"mainline/samples"
 )
 
 // text returns a text with one line for each letter.
@@ -29,29 +30,9 @@ func list(letters string) []string {
 	return strings.Split(letters, "")
 }
 
-// wordsOver returns all strings of at most most bytes of the alphabet.
-func wordsOver(alphabet string, most int) []string {
-	all := []string{""}
-	longest := all
-	for range most {
-		var longer []string
-		for _, s := range longest {
-			for i := range len(alphabet) {
-				longer = append(longer, s+alphabet[i:i+1])
-			}
-		}
-		all = append(all, longer...)
-		longest = longer
-	}
-	return all
-}
-
 // wordsOf returns a function that makes words of the first letters of the alphabet, always in the same order.
 func wordsOf(seed uint32) func(letters, most int) string {
-	below := func(n int) int {
-		seed = seed*1664525 + 1013904223
-		return int(seed>>8) % n
-	}
+	below := samples.Below(seed)
 	return func(letters, most int) string {
 		var b strings.Builder
 		for range below(most + 1) {
@@ -247,7 +228,7 @@ func TestP2_1SplitOfKnownTexts(t *testing.T) {
 
 func TestP2_1LinesConcatenateToTheText(t *testing.T) {
 	long := strings.Repeat(strings.Repeat("x", 1000)+"\n\n", 1000)
-	for _, s := range append(wordsOver("a\n\r\xff", 6), long, long+"y") {
+	for _, s := range append(samples.Strings("a\n\r\xff", 6), long, long+"y") {
 		l := Split(s)
 		if strings.Join(l, "") != s {
 			t.Errorf("Split(%q) = %q", s, l)
@@ -313,7 +294,7 @@ func TestP2_2EmptyStringsAreLinesLikeOthers(t *testing.T) {
 }
 
 func TestP2_2DiffOfAllShortLists(t *testing.T) {
-	words := wordsOver("abc", 5)
+	words := samples.Strings("abc", 5)
 	for _, a := range words {
 		for _, b := range words {
 			x, y := list(a), list(b)
@@ -631,7 +612,7 @@ func TestP2_4MergeOfAllShortTexts(t *testing.T) {
 		letters string
 		most    int
 	}{{"ab", 4}, {"abc", 2}} {
-		words := wordsOver(alphabet.letters, alphabet.most)
+		words := samples.Strings(alphabet.letters, alphabet.most)
 		for _, base := range words {
 			for _, left := range words {
 				for _, right := range words {
@@ -640,7 +621,7 @@ func TestP2_4MergeOfAllShortTexts(t *testing.T) {
 			}
 		}
 	}
-	bytes := wordsOver("a\n", 4)
+	bytes := samples.Strings("a\n", 4)
 	for _, base := range bytes {
 		for _, left := range bytes {
 			for _, right := range bytes {
@@ -747,7 +728,7 @@ func checkDifference(t *testing.T, a, b []string) {
 }
 
 func TestP2_5PatchUndoesDiff(t *testing.T) {
-	words := wordsOver("abc", 5)
+	words := samples.Strings("abc", 5)
 	for _, a := range words {
 		for _, b := range words {
 			checkDifference(t, list(a), list(b))
@@ -770,8 +751,8 @@ func TestP2_5PatchUndoesDiffBeyondTheLimit(t *testing.T) {
 }
 
 func TestP2_5MergeWithOneChange(t *testing.T) {
-	texts := wordsOver("a\n", 5)
-	for _, word := range wordsOver("abc", 3) {
+	texts := samples.Strings("a\n", 5)
+	for _, word := range samples.Strings("abc", 3) {
 		texts = append(texts, text(word))
 	}
 	for _, base := range texts {
@@ -818,7 +799,7 @@ func TestP1CallsEndForAllArguments(t *testing.T) {
 			}
 		}
 	}
-	for _, s := range wordsOver("a\n\x00\xff", 4) {
+	for _, s := range samples.Strings("a\n\x00\xff", 4) {
 		Split(s)
 		Merge(s, "\xff\n", "a")
 		Merge("\xff\n", s, "a")

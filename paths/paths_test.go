@@ -4,41 +4,11 @@ import (
 	"slices"
 	"strings"
 	"testing"
+
+	"mainline/samples"
 )
 
 const nameBytes = "abcdefghijklmnopqrstuvwxyzABCDEFGHIJKLMNOPQRSTUVWXYZ0123456789_.-"
-
-// wordsOver returns all strings of at most most bytes of the alphabet.
-func wordsOver(alphabet string, most int) []string {
-	all := []string{""}
-	longest := all
-	for range most {
-		var longer []string
-		for _, s := range longest {
-			for i := range len(alphabet) {
-				longer = append(longer, s+alphabet[i:i+1])
-			}
-		}
-		all = append(all, longer...)
-		longest = longer
-	}
-	return all
-}
-
-// wordMaker returns a function that makes words of at most most bytes of the alphabet, always in the same order.
-func wordMaker(seed uint32, alphabet string) func(most int) string {
-	below := func(n int) int {
-		seed = seed*1664525 + 1013904223
-		return int(seed>>8) % n
-	}
-	return func(most int) string {
-		word := make([]byte, below(most+1))
-		for i := range word {
-			word[i] = alphabet[below(len(alphabet))]
-		}
-		return string(word)
-	}
-}
 
 // repeated returns n components that are all the same, joined.
 func repeated(component string, n int) string {
@@ -206,7 +176,7 @@ func TestP3_1LimitsOfPaths(t *testing.T) {
 }
 
 func TestP3_1ValidOfAllShortStrings(t *testing.T) {
-	for _, p := range append(wordsOver("a./", 8), wordsOver("Z.*/ \xe9", 5)...) {
+	for _, p := range append(samples.Strings("a./", 8), samples.Strings("Z.*/ \xe9", 5)...) {
 		if want := validByWords(p); Valid(p) != want {
 			t.Fatalf("Valid(%q): %v", p, !want)
 		}
@@ -214,7 +184,7 @@ func TestP3_1ValidOfAllShortStrings(t *testing.T) {
 }
 
 func TestP3_1ValidOfLongerStrings(t *testing.T) {
-	word := wordMaker(1, "aaaaaaaa/")
+	word := samples.Words(1, "aaaaaaaa/")
 	for range 20000 {
 		p := word(210)
 		if want := validByWords(p); Valid(p) != want {
@@ -277,7 +247,7 @@ func checkParts(t *testing.T, p string) {
 }
 
 func TestP3_2PartsDirAndBaseOfAllShortStrings(t *testing.T) {
-	for _, p := range append(wordsOver("a/", 10), wordsOver("a./ *\xff", 5)...) {
+	for _, p := range append(samples.Strings("a/", 10), samples.Strings("a./ *\xff", 5)...) {
 		checkParts(t, p)
 	}
 }
@@ -338,8 +308,8 @@ func TestP3_3UnderOfAllShortStrings(t *testing.T) {
 			t.Fatalf("Under(%q, %q): %v", p, dir, !want)
 		}
 	}
-	checkPairs(wordsOver("a/", 7), check)
-	checkPairs(wordsOver("ab-/\xff", 3), check)
+	checkPairs(samples.Strings("a/", 7), check)
+	checkPairs(samples.Strings("ab-/\xff", 3), check)
 }
 
 func TestP3_3UnderBeyondTheLimits(t *testing.T) {
@@ -392,8 +362,8 @@ func TestP3_4LessOfAllShortStrings(t *testing.T) {
 			t.Fatalf("Less(%q, %q): %v", a, b, !want)
 		}
 	}
-	checkPairs(wordsOver("a-/", 5), check)
-	checkPairs(wordsOver("a-0/\x00\xff", 3), check)
+	checkPairs(samples.Strings("a-/", 5), check)
+	checkPairs(samples.Strings("a-0/\x00\xff", 3), check)
 }
 
 func TestP3_5ValidPatternOfKnownStrings(t *testing.T) {
@@ -447,7 +417,7 @@ func TestP3_5LimitsOfPatterns(t *testing.T) {
 }
 
 func TestP3_5ValidPatternOfAllShortStrings(t *testing.T) {
-	for _, s := range append(wordsOver("a*./", 6), wordsOver("a*?./ \xff", 5)...) {
+	for _, s := range append(samples.Strings("a*./", 6), samples.Strings("a*?./ \xff", 5)...) {
 		if want := patternByWords(s); ValidPattern(s) != want {
 			t.Fatalf("ValidPattern(%q): %v", s, !want)
 		}
@@ -528,8 +498,8 @@ func TestP3_6NothingInvalidMatches(t *testing.T) {
 }
 
 func TestP3_6MatchOfAllShortStrings(t *testing.T) {
-	paths := slices.DeleteFunc(wordsOver("ab/", 5), func(p string) bool { return !validByWords(p) })
-	for _, pattern := range wordsOver("ab*?/", 5) {
+	paths := slices.DeleteFunc(samples.Strings("ab/", 5), func(p string) bool { return !validByWords(p) })
+	for _, pattern := range samples.Strings("ab*?/", 5) {
 		if !patternByWords(pattern) {
 			continue
 		}
@@ -542,7 +512,7 @@ func TestP3_6MatchOfAllShortStrings(t *testing.T) {
 }
 
 func TestP3_6MatchOfInvalidShortStrings(t *testing.T) {
-	checkPairs(wordsOver("a.*?/\xff", 3), func(pattern, path string) {
+	checkPairs(samples.Strings("a.*?/\xff", 3), func(pattern, path string) {
 		if want := matchByWords(pattern, path); Match(pattern, path) != want {
 			t.Fatalf("Match(%q, %q): %v", pattern, path, !want)
 		}
@@ -552,7 +522,7 @@ func TestP3_6MatchOfInvalidShortStrings(t *testing.T) {
 func TestP3_6MatchOfLongerStrings(t *testing.T) {
 	matched := 0
 	for _, alphabets := range [][2]string{{"ab*?", "ab"}, {"ab*?*?*?/", "ab/"}, {"a*/", "a/"}, {"aa**b//", "aab/"}} {
-		pattern, path := wordMaker(2, alphabets[0]), wordMaker(3, alphabets[1])
+		pattern, path := samples.Words(2, alphabets[0]), samples.Words(3, alphabets[1])
 		for range 100000 {
 			s, p := pattern(14), path(14)
 			want := matchByWords(s, p)
@@ -570,7 +540,7 @@ func TestP3_6MatchOfLongerStrings(t *testing.T) {
 }
 
 func TestP3_7DirAndBaseGiveBackTheString(t *testing.T) {
-	for _, p := range append(wordsOver("a./", 7), strange()...) {
+	for _, p := range append(samples.Strings("a./", 7), strange()...) {
 		if len(Parts(p)) >= 2 && Dir(p)+"/"+Base(p) != p {
 			t.Fatalf("Dir and Base of %q: %q, %q", p, Dir(p), Base(p))
 		}
@@ -593,7 +563,7 @@ func sortedByLess(all []string) []string {
 }
 
 func TestP3_7LessIsAStrictOrder(t *testing.T) {
-	sorted := sortedByLess(append(wordsOver("a-/", 4), append(wordsOver("a\x00/\xff", 3), strange()...)...))
+	sorted := sortedByLess(append(samples.Strings("a-/", 4), append(samples.Strings("a\x00/\xff", 3), strange()...)...))
 	for i, a := range sorted {
 		for k, b := range sorted {
 			if Less(a, b) != (i < k) {
@@ -604,7 +574,7 @@ func TestP3_7LessIsAStrictOrder(t *testing.T) {
 }
 
 func TestP3_7WhatIsUnderADirectoryFollowsIt(t *testing.T) {
-	sorted := sortedByLess(append(wordsOver("a-/", 5), wordsOver("a\x00/\xff", 3)...))
+	sorted := sortedByLess(append(samples.Strings("a-/", 5), samples.Strings("a\x00/\xff", 3)...))
 	for first, dir := range sorted {
 		end := first
 		for end < len(sorted) && Under(sorted[end], dir) {
@@ -622,7 +592,7 @@ func TestP3_7WhatIsUnderADirectoryFollowsIt(t *testing.T) {
 }
 
 func TestP3_7APatternWithoutWildcardsMatchesItselfOnly(t *testing.T) {
-	paths := slices.DeleteFunc(wordsOver("a-./", 4), func(p string) bool { return !validByWords(p) })
+	paths := slices.DeleteFunc(samples.Strings("a-./", 4), func(p string) bool { return !validByWords(p) })
 	paths = append(paths, repeated("a", 20), strings.Repeat("a", 200))
 	checkPairs(paths, func(pattern, path string) {
 		if !ValidPattern(pattern) || Match(pattern, path) != (pattern == path) {
@@ -632,7 +602,7 @@ func TestP3_7APatternWithoutWildcardsMatchesItselfOnly(t *testing.T) {
 }
 
 func TestP3_7TwoStarsMatchWhatIsValidAndUnder(t *testing.T) {
-	all := append(wordsOver("a-/", 5), strange()...)
+	all := append(samples.Strings("a-/", 5), strange()...)
 	for _, p := range append(all, repeated("a", 20), strings.Repeat("a", 200)) {
 		if Match("**", p) != validByWords(p) {
 			t.Fatalf("Match of ** and %q: %v", p, !validByWords(p))
@@ -663,7 +633,7 @@ func TestP1CallsEndForAllArguments(t *testing.T) {
 		all = append(all, string([]byte{byte(i)}))
 	}
 	checkPairs(all, callAll)
-	checkPairs(wordsOver("a.*/\xff", 3), callAll)
+	checkPairs(samples.Strings("a.*/\xff", 3), callAll)
 }
 
 func TestP1CallsEndForVeryLongStrings(t *testing.T) {
